@@ -145,7 +145,7 @@ func wantsColor(c *api.Color, own []int, next [][]int) int {
 		wantsValues(c, 2, append(l, -1, -1, -1)[1:4])
 		return min(len(l), 4)
 	}
-	return 0
+	return min(len(l), 1)
 }
 
 func wantsValues(c *api.Color, kind uint8, values []int) {
@@ -449,27 +449,54 @@ func TestMixedBehind(t *testing.T) {
 	apply(t, none, [][]int{{38}, {2}, {}, {7}, nil}, fg(rgb(0x000700)))
 }
 
-// P10.1: 38 and 48 without parts, nothing or others next: they alone are taken.
+// P10.1: 38 and 48 without parts, another one next: that alone is taken, whatever it says where it stands for itself.
 func TestOthersBehind(t *testing.T) {
+	for _, text := range []string{
+		";0", ";", ";1", ";3", ";4", ";4:0", ";6", ";7", ";22", ";27", ";30", ";31", ";39", ";47", ";49", ";97", ";107", ";-1", ";-2", ";-5", ";255", ";256", ";258", ";261", ";9999", ";4294967298", ";4294967301",
+		";38", ";48", ";38:5:7", ";48:5:7", ";38:2:1:2:3", ";0:5", ";0:2", ";:5:7", ";1:5:7", ";31:2:1:2:3", ";4:5:1",
+	} {
+		both(t, text, api.Color{}, false)
+	}
+	for _, a := range append([]api.Attr{none, full}, wrong...) {
+		for _, n := range []int{38, 48} {
+			apply(t, a, [][]int{{n}, {}}, a)
+			apply(t, a, [][]int{{n}, nil}, a)
+			apply(t, a, [][]int{{n}, make([]int, 0, 3)}, a)
+			apply(t, a, [][]int{{n}, {}, {}}, none)
+			apply(t, a, [][]int{{n}, {30}}, a)
+			apply(t, a, [][]int{{n}, {0}, {n}, {0}}, a)
+		}
+	}
+}
+
+// P10.1: what stands behind the one that is taken says what it says, a color's numbers too.
+func TestBehindTheOthers(t *testing.T) {
+	says(t, "38;1;3", api.Attr{Flags: Italic})
+	says(t, "48;7;1", api.Attr{Flags: Bold})
+	says(t, "48;30;31", fg(index(1)))
+	says(t, "38;1;5;7", api.Attr{Flags: Blink | Reverse})
+	says(t, "48;3;2;1", api.Attr{Flags: Faint | Bold})
+	says(t, "38;0;38;5;7", fg(index(7)))
+	says(t, "38;48;5;7", api.Attr{Flags: Blink | Reverse})
+	says(t, "48;38;2;1;3", api.Attr{Flags: Faint | Bold | Italic})
+	says(t, "38;38;38;5;7", fg(index(7)))
+	says(t, "38;38;38;38;5;7", api.Attr{Flags: Blink | Reverse})
+	says(t, "48;38:5:7;38:5:8", fg(index(8)))
+	says(t, "3;38;9;1", api.Attr{Flags: Italic | Bold})
+	apply(t, none, [][]int{{48}, {}, {5}, {7}}, api.Attr{Flags: Blink | Reverse})
+	apply(t, full, [][]int{{38}, {1}, nil}, none)
+}
+
+// P10.1: 38 and 48 that nothing comes behind change nothing.
+func TestNothingBehind(t *testing.T) {
 	for _, a := range append([]api.Attr{none, full}, wrong...) {
 		apply(t, a, list("38"), a)
 		apply(t, a, list("48"), a)
-		apply(t, a, list("38;0"), none)
-		apply(t, a, list("48;;1"), api.Attr{Flags: Bold})
-		apply(t, a, [][]int{{38}, {}, {5}}, api.Attr{Flags: Blink})
+		apply(t, a, list("38;1;48"), a)
+		apply(t, a, list("0;38"), none)
 	}
-	says(t, "38;1", api.Attr{Flags: Bold})
-	says(t, "38;1;5;7", api.Attr{Flags: Bold | Blink | Reverse})
-	says(t, "48;3;2;1", api.Attr{Flags: Italic | Faint | Bold})
-	says(t, "38;31", fg(index(1)))
-	says(t, "38;4:0;9", api.Attr{Flags: Strike})
-	says(t, "38;-5;7", api.Attr{Flags: Reverse})
-	says(t, "48;6;7", api.Attr{Flags: Reverse})
-	says(t, "38;9999;7", api.Attr{Flags: Reverse})
-	says(t, "38;48;5;7", bg(index(7)))
-	says(t, "48;38:5:7;1", api.Attr{Flags: Bold, Fg: index(7)})
-	says(t, "38;38;38;5;7", fg(index(7)))
 	says(t, "1;38", api.Attr{Flags: Bold})
+	says(t, "3;38;1;48", api.Attr{Flags: Italic})
 }
 
 // P10.1: parameters say what they say one behind the other.
@@ -694,6 +721,7 @@ func TestLongLists(t *testing.T) {
 		b    api.Attr
 	}{
 		{[][]int{{38}}, none},
+		{[][]int{{38}, {1}, {3}}, api.Attr{Flags: Italic}},
 		{[][]int{{48}, {5}, {7}}, bg(index(7))},
 		{[][]int{{38}, {2}, {1}, {2}, {3}, {38}, {2}}, api.Attr{Flags: Faint | Italic, Fg: rgb(0x260201)}},
 		{[][]int{append([]int{38, 2, 0, 1, 2, 3}, make([]int, 100)...), {4}, append([]int{4, 0}, make([]int, 100)...)}, fg(rgb(0x010203))},
